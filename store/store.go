@@ -1,0 +1,96 @@
+// Package store keeps the objects that are there, by their numbers, and reckons their room.
+package store
+
+import "trove/api"
+
+// field is a number, or a reference: then its value is an object's number, or 0 for nothing.
+type field struct {
+	kind  int
+	value int
+}
+
+// Object is fields.
+type Object struct {
+	fields []field
+}
+
+// Store is the objects that are there. They are numbered from 1, so that 0 can stand for nothing.
+type Store struct {
+	limit   int
+	made    int
+	objects map[int]*Object
+}
+
+// New makes a store without objects that has so much room.
+func New(limit int) *Store {
+	return &Store{limit: limit, objects: map[int]*Object{}}
+}
+
+// Add makes an object with fields of these kinds, if there is room for it, and gives its number.
+func (s *Store) Add(kinds []int) (int, error) {
+	o := blank(kinds)
+	if o.room() > s.left() {
+		return 0, api.ErrRoom
+	}
+	s.made++
+	s.objects[s.made] = o
+	return s.made, nil
+}
+
+// Find gives an object, if it is there.
+func (s *Store) Find(number int) (*Object, bool) {
+	o, ok := s.objects[number]
+	return o, ok
+}
+
+// Count tells how many objects there are.
+func (s *Store) Count() int { return len(s.objects) }
+
+// Room tells how much room the objects take together.
+func (s *Store) Room() int {
+	sum := 0
+	for _, o := range s.objects {
+		sum += o.room()
+	}
+	return sum
+}
+
+func (s *Store) left() int { return max(s.limit-s.Room(), 0) }
+
+// Number reads a number.
+func (o *Object) Number(i int) (int, error) {
+	f, err := o.field(i, api.Number)
+	if err != nil {
+		return 0, err
+	}
+	return f.value, nil
+}
+
+// SetNumber writes a number.
+func (o *Object) SetNumber(i, v int) error {
+	f, err := o.field(i, api.Number)
+	if err != nil {
+		return err
+	}
+	f.value = v
+	return nil
+}
+
+// blank makes an object as it is at first: numbers are 0, references are to nothing.
+func blank(kinds []int) *Object {
+	o := &Object{fields: make([]field, len(kinds))}
+	for i, kind := range kinds {
+		o.fields[i].kind = kind
+	}
+	return o
+}
+
+// room is one more than the fields, so that an object without fields takes some, too.
+func (o *Object) room() int { return len(o.fields) + 1 }
+
+func (o *Object) field(i, kind int) (*field, error) {
+	if i < 0 || i >= len(o.fields) || o.fields[i].kind != kind {
+		return nil, api.ErrField
+	}
+	return &o.fields[i], nil
+}

@@ -1,0 +1,89 @@
+package trove_test
+
+import (
+	"errors"
+	"testing"
+
+	"trove/api"
+	"trove/trove"
+)
+
+// pair is a class of a number and a reference.
+var pair = []int{api.Number, api.Reference}
+
+func config(room, locals, globals, weaks int, classes ...[]int) api.Config {
+	return api.Config{Room: room, Locals: locals, Globals: globals, Weaks: weaks, Classes: classes}
+}
+
+func newHeap(t *testing.T, c api.Config) *trove.Heap {
+	t.Helper()
+	h, err := trove.New(c)
+	if err != nil || h == nil {
+		t.Fatalf("New(%+v) = %v, %v, want a heap", c, h, err)
+	}
+	return h
+}
+
+// wantFault: the error is itself a fault, holds the reason bare and wraps it, and tells this handle.
+func wantFault(t *testing.T, what string, err, reason error, handle int) {
+	t.Helper()
+	fault, ok := err.(*api.Fault)
+	if !ok {
+		t.Errorf("%s: error %v (%T), want a fault: %v", what, err, err, reason)
+		return
+	}
+	if fault.Err != reason || !errors.Is(err, reason) {
+		t.Errorf("%s: refused for %v, want %v", what, fault.Err, reason)
+	}
+	if fault.Handle != handle {
+		t.Errorf("%s: fault of handle %d, want %d", what, fault.Handle, handle)
+	}
+}
+
+// wantRefused: a call with a number as its other result was refused; that number is 0.
+func wantRefused(t *testing.T, what string, got int, err, reason error, handle int) {
+	t.Helper()
+	wantFault(t, what, err, reason, handle)
+	if got != 0 {
+		t.Errorf("%s: %d beside an error, want 0", what, got)
+	}
+}
+
+func wantNumber(t *testing.T, what string, got int, err error, want int) {
+	t.Helper()
+	if err != nil || got != want {
+		t.Errorf("%s = %d, %v, want %d", what, got, err, want)
+	}
+}
+
+func wantMake(t *testing.T, h *trove.Heap, class, want int) {
+	t.Helper()
+	got, err := h.Make(class)
+	wantNumber(t, "Make", got, err, want)
+}
+
+func wantArray(t *testing.T, h *trove.Heap, kind, n, want int) {
+	t.Helper()
+	got, err := h.Array(kind, n)
+	wantNumber(t, "Array", got, err, want)
+}
+
+func wantGet(t *testing.T, h *trove.Heap, handle, i, want int) {
+	t.Helper()
+	got, err := h.Get(handle, i)
+	wantNumber(t, "Get", got, err, want)
+}
+
+func mustSet(t *testing.T, h *trove.Heap, handle, i, v int) {
+	t.Helper()
+	if err := h.Set(handle, i, v); err != nil {
+		t.Errorf("Set(%d, %d, %d): %v", handle, i, v, err)
+	}
+}
+
+func wantStats(t *testing.T, h *trove.Heap, want [6]int) {
+	t.Helper()
+	if got := h.Stats(); got != want {
+		t.Errorf("Stats() = %v, want %v", got, want)
+	}
+}

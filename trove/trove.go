@@ -1,0 +1,143 @@
+// Package trove: objects that are there as long as somebody can come to them: see DOC.md.
+package trove
+
+import (
+	"slices"
+
+	"trove/api"
+	"trove/handles"
+	"trove/store"
+)
+
+// Heap is objects, and handles to them.
+type Heap struct {
+	classes [][]int
+	objects *store.Store
+	handles *handles.Tables
+	frames  int
+}
+
+// New makes a heap (P2).
+func New(c api.Config) (*Heap, error) {
+	if !fits(c) {
+		return nil, refusal(api.ErrArg)
+	}
+	return &Heap{
+		classes: copied(c.Classes),
+		objects: store.New(c.Room),
+		handles: handles.New(c.Locals, c.Globals, c.Weaks),
+		frames:  1,
+	}, nil
+}
+
+// Make makes an object of a class (P5).
+func (h *Heap) Make(class int) (int, error) {
+	if !within(class, 0, len(h.classes)-1) {
+		return 0, refusal(api.ErrArg)
+	}
+	return h.add(h.classes[class])
+}
+
+// Array makes an array of so many elements of a kind (P5).
+func (h *Heap) Array(kind int, n int) (int, error) {
+	if badKind(kind) || !within(n, 0, api.MaxElements) {
+		return 0, refusal(api.ErrArg)
+	}
+	return h.add(slices.Repeat([]int{kind}, n))
+}
+
+// Extern makes an object whose end is told (P5).
+func (h *Heap) Extern(name int) (int, error) { return 0, nil }
+
+// Get reads a number of an object (P6).
+func (h *Heap) Get(handle int, i int) (int, error) {
+	o, err := h.object(handle)
+	if err != nil {
+		return 0, refusal(err)
+	}
+	v, err := o.Number(i)
+	return v, refusal(err)
+}
+
+// Set writes a number of an object (P6).
+func (h *Heap) Set(handle int, i int, v int) error {
+	o, err := h.object(handle)
+	if err != nil {
+		return refusal(err)
+	}
+	if !within(v, -api.MaxValue, api.MaxValue) {
+		return refusal(api.ErrArg)
+	}
+	return refusal(o.SetNumber(i, v))
+}
+
+// Follow gives a handle to what a reference of an object refers to (P6).
+func (h *Heap) Follow(handle int, i int) (int, error) { return 0, nil }
+
+// Point lets a reference of an object refer to another (P6).
+func (h *Heap) Point(handle int, i int, to int) error { return nil }
+
+// Same tells whether two handles are of one object (P7).
+func (h *Heap) Same(a int, b int) (bool, error) { return false, nil }
+
+// Ref gives one handle more of a kind to an object (P7).
+func (h *Heap) Ref(kind int, handle int) (int, error) { return 0, nil }
+
+// Free takes a handle back (P7).
+func (h *Heap) Free(handle int) error { return nil }
+
+// Push begins a frame (P8).
+func (h *Heap) Push() error { return nil }
+
+// Pop ends a frame; one object comes out of it (P8).
+func (h *Heap) Pop(handle int) (int, error) { return 0, nil }
+
+// Pin holds an object fast (P9).
+func (h *Heap) Pin(handle int) error { return nil }
+
+// Unpin lets it go (P9).
+func (h *Heap) Unpin(handle int) error { return nil }
+
+// Collect lets go what nobody can come to; how many objects (P10).
+func (h *Heap) Collect() int { return 0 }
+
+// Ended tells the names of objects that have ended since it was asked last (P11).
+func (h *Heap) Ended() []int { return nil }
+
+// Stats tells how many objects there are, how much room they take, how many slots of each kind are taken, and how many frames there are (P11).
+func (h *Heap) Stats() [6]int {
+	return [6]int{
+		h.objects.Count(),
+		h.objects.Room(),
+		h.handles.Taken(api.Local),
+		h.handles.Taken(api.Global),
+		h.handles.Taken(api.Weak),
+		h.frames,
+	}
+}
+
+// add makes an object and a local handle to it. The slot is looked for first: without one the store must stay as it is.
+func (h *Heap) add(kinds []int) (int, error) {
+	vacant, err := h.handles.Vacant(api.Local)
+	if err != nil {
+		return 0, refusal(err)
+	}
+	number, err := h.objects.Add(kinds)
+	if err != nil {
+		return 0, refusal(err)
+	}
+	return h.handles.Take(api.Local, vacant, number), nil
+}
+
+// object gives the object that a handle is of (P3). Only a weak handle can outlive its object.
+func (h *Heap) object(handle int) (*store.Object, error) {
+	number, err := h.handles.Object(handle)
+	if err != nil {
+		return nil, err
+	}
+	o, there := h.objects.Find(number)
+	if !there {
+		return nil, &handles.Bad{Handle: handle, Err: api.ErrCleared}
+	}
+	return o, nil
+}
