@@ -2,6 +2,7 @@ package handles
 
 import (
 	"errors"
+	"slices"
 	"testing"
 
 	"trove/api"
@@ -36,8 +37,8 @@ func TestTheLeastFreeSlotIsTakenWithItsNextGeneration(t *testing.T) {
 	for object := 1; object <= 3; object++ {
 		take(t, tables, api.Local, object)
 	}
-	tables.slots[api.Local][1].object = 0
-	tables.slots[api.Local][2].object = 0
+	mustFree(t, tables, 1+8+256)
+	mustFree(t, tables, 1+4+256)
 	if got := take(t, tables, api.Local, 4); got != 1+4+2*256 {
 		t.Errorf("handle %d, want slot 1, generation 2", got)
 	}
@@ -58,16 +59,56 @@ func TestASlotIsTakenUpToTheLastGeneration(t *testing.T) {
 			t.Errorf("handle %d, want generation %d", handle, generation)
 		}
 		wantObject(t, tables, handle, 7)
-		tables.slots[api.Local][0].object = 0
+		mustFree(t, tables, handle)
 		wantBad(t, tables, handle, api.ErrStale)
 	}
 	if _, err := tables.Vacant(api.Local); err != api.ErrTable {
 		t.Errorf("Vacant behind the last generation: %v", err)
 	}
-	tables.slots[api.Weak][0].generation = api.MaxGeneration
+	for range api.MaxGeneration {
+		mustFree(t, tables, take(t, tables, api.Weak, 7))
+	}
 	if got := take(t, tables, api.Weak, 7); got != 3+4+256 {
 		t.Errorf("handle %d, want slot 1, as slot 0 is used up", got)
 	}
+}
+
+func TestFreeFreesOneSlotOfOneTable(t *testing.T) {
+	tables := New(2, 2, 2)
+	for _, kind := range []int{api.Local, api.Global, api.Weak} {
+		take(t, tables, kind, 5)
+		take(t, tables, kind, 6)
+	}
+	mustFree(t, tables, 2+256)
+	wantBad(t, tables, 2+256, api.ErrStale)
+	wantHeld(t, tables, api.Local, 5, 6)
+	wantHeld(t, tables, api.Global, 6)
+	wantHeld(t, tables, api.Weak, 5, 6)
+	mustFree(t, tables, 3+4+256)
+	wantHeld(t, tables, api.Weak, 5)
+	wantHeld(t, tables, api.Global, 6)
+	mustFree(t, tables, 2+4+256)
+	wantHeld(t, tables, api.Global)
+}
+
+func TestFreeRefusesWhatIsNoHandle(t *testing.T) {
+	tables := New(2, 1, 1)
+	handle := take(t, tables, api.Local, 5)
+	for bad, reason := range map[int]error{0: api.ErrNull, -handle: api.ErrForged, handle + 8: api.ErrForged, handle + 4: api.ErrStale, handle + 256: api.ErrStale} {
+		if err := tables.Free(bad); !errors.Is(err, reason) {
+			t.Errorf("Free(%d): %v, want %v", bad, err, reason)
+		}
+	}
+	wantHeld(t, tables, api.Local, 5)
+}
+
+func TestHeldIsTheCallers(t *testing.T) {
+	tables := New(2, 1, 1)
+	handle := take(t, tables, api.Local, 5)
+	held := tables.Held(api.Local)
+	held[0] = 9
+	wantObject(t, tables, handle, 5)
+	wantHeld(t, tables, api.Local, 5)
 }
 
 func TestBadTellsHandleAndReason(t *testing.T) {
@@ -77,6 +118,23 @@ func TestBadTellsHandleAndReason(t *testing.T) {
 	}
 	if !errors.Is(err, api.ErrStale) {
 		t.Error("the reason is not wrapped")
+	}
+}
+
+func mustFree(t *testing.T, tables *Tables, handle int) {
+	t.Helper()
+	if err := tables.Free(handle); err != nil {
+		t.Errorf("Free(%d): %v", handle, err)
+	}
+}
+
+func wantHeld(t *testing.T, tables *Tables, kind int, want ...int) {
+	t.Helper()
+	if got := tables.Held(kind); !slices.Equal(got, want) {
+		t.Errorf("Held(%d) = %v, want %v", kind, got, want)
+	}
+	if got := tables.Taken(kind); got != len(want) {
+		t.Errorf("Taken(%d) = %d, want %d", kind, got, len(want))
 	}
 }
 

@@ -1,7 +1,11 @@
 // Package store keeps the objects that are there, by their numbers, and reckons their room.
 package store
 
-import "trove/api"
+import (
+	"slices"
+
+	"trove/api"
+)
 
 // field is a number, or a reference: then its value is an object's number, or 0 for nothing.
 type field struct {
@@ -57,6 +61,35 @@ func (s *Store) Room() int {
 
 func (s *Store) left() int { return max(s.limit-s.Room(), 0) }
 
+// Collect ends all objects to which nobody comes from these, and tells how many.
+func (s *Store) Collect(from []int) int {
+	before := len(s.objects)
+	come := s.reached(from)
+	for number := range s.objects {
+		if _, ok := come[number]; !ok {
+			delete(s.objects, number)
+		}
+	}
+	return before - len(s.objects)
+}
+
+// reached finds all objects to which somebody comes from these. It goes by a list and not by calling itself, so that rings end and long chains do no harm.
+func (s *Store) reached(from []int) map[int]struct{} {
+	come := map[int]struct{}{}
+	ahead := slices.Clone(from)
+	for len(ahead) > 0 {
+		last := len(ahead) - 1
+		number := ahead[last]
+		ahead = ahead[:last]
+		if _, seen := come[number]; seen {
+			continue
+		}
+		come[number] = struct{}{}
+		ahead = append(ahead, s.objects[number].references()...)
+	}
+	return come
+}
+
 // Number reads a number.
 func (o *Object) Number(i int) (int, error) {
 	f, err := o.field(i, api.Number)
@@ -74,6 +107,36 @@ func (o *Object) SetNumber(i, v int) error {
 	}
 	f.value = v
 	return nil
+}
+
+// Reference tells the number of the object that a reference is to, or 0.
+func (o *Object) Reference(i int) (int, error) {
+	f, err := o.field(i, api.Reference)
+	if err != nil {
+		return 0, err
+	}
+	return f.value, nil
+}
+
+// SetReference lets a reference be to an object, or to nothing if its number is 0.
+func (o *Object) SetReference(i, number int) error {
+	f, err := o.field(i, api.Reference)
+	if err != nil {
+		return err
+	}
+	f.value = number
+	return nil
+}
+
+// references are the numbers of all objects to which this one refers.
+func (o *Object) references() []int {
+	to := []int{}
+	for _, f := range o.fields {
+		if f.kind == api.Reference && f.value != 0 {
+			to = append(to, f.value)
+		}
+	}
+	return to
 }
 
 // blank makes an object as it is at first: numbers are 0, references are to nothing.

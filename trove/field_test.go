@@ -5,7 +5,6 @@ import (
 	"testing"
 
 	"trove/api"
-	"trove/trove"
 )
 
 // P6: what was set is got, up to the bounds, and nothing else is touched.
@@ -68,66 +67,4 @@ func TestSetTellsTheFirstReason(t *testing.T) {
 	for _, i := range []int{-1, 1, 2} {
 		wantFault(t, "Set: value and field", h.Set(257, i, api.MaxValue+1), api.ErrArg, 0)
 	}
-}
-
-// P3: the document's table.
-func TestHandlesOfTheDocument(t *testing.T) {
-	h := newHeap(t, config(10, 3, 2, 2, pair))
-	wantMake(t, h, 0, 257)
-	wantBadHandle(t, h, 0, api.ErrNull)
-	for _, handle := range []int{4, -1, 1, 256*51 + 1, 256 + 4*3 + 1} {
-		wantBadHandle(t, h, handle, api.ErrForged)
-	}
-}
-
-// P3: numbers far from any handle.
-func TestHandlesFarOff(t *testing.T) {
-	h := newHeap(t, config(10, 3, 2, 2, pair))
-	wantMake(t, h, 0, 257)
-	for _, handle := range []int{math.MinInt, math.MinInt + 1, -257, -256, math.MaxInt, math.MaxInt - 2, 1<<62 + 257, 1<<32 + 257, 1<<31 + 257, 1<<16 + 257} {
-		wantBadHandle(t, h, handle, api.ErrForged)
-	}
-}
-
-// P3: all handles that there can be, and many that there cannot, of tables of different sizes.
-func TestEveryHandle(t *testing.T) {
-	slots := map[int]int{api.Local: 5, api.Global: 3, api.Weak: 16}
-	h := newHeap(t, config(100, slots[api.Local], slots[api.Global], slots[api.Weak], pair))
-	good := map[int]int{257: 0, 261: 1, 265: 2}
-	for i := range len(good) {
-		wantMake(t, h, 0, 257+4*i)
-		mustSet(t, h, 257+4*i, 0, 40+i)
-	}
-	for handle := -600; handle < 256*(api.MaxGeneration+14); handle++ {
-		if i, ok := good[handle]; ok {
-			wantGet(t, h, handle, 0, 40+i)
-			continue
-		}
-		wantBadHandle(t, h, handle, reasonOf(handle, slots))
-	}
-	wantStats(t, h, [6]int{3, 9, 3, 0, 0, 1})
-}
-
-// reasonOf: why a handle that was not given out is refused. The handles that can be good are built up here, not taken apart as the program does.
-func reasonOf(handle int, slots map[int]int) error {
-	if handle == 0 {
-		return api.ErrNull
-	}
-	for kind, n := range slots {
-		for slot := range n {
-			for generation := 1; generation <= api.MaxGeneration; generation++ {
-				if handle == kind+4*slot+256*generation {
-					return api.ErrStale
-				}
-			}
-		}
-	}
-	return api.ErrForged
-}
-
-func wantBadHandle(t *testing.T, h *trove.Heap, handle int, reason error) {
-	t.Helper()
-	got, err := h.Get(handle, 0)
-	wantRefused(t, "Get", got, err, reason, handle)
-	wantFault(t, "Set", h.Set(handle, 0, 1), reason, handle)
 }

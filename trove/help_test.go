@@ -81,6 +81,80 @@ func mustSet(t *testing.T, h *trove.Heap, handle, i, v int) {
 	}
 }
 
+func wantFollow(t *testing.T, h *trove.Heap, handle, i, want int) {
+	t.Helper()
+	got, err := h.Follow(handle, i)
+	wantNumber(t, "Follow", got, err, want)
+}
+
+func mustPoint(t *testing.T, h *trove.Heap, handle, i, to int) {
+	t.Helper()
+	if err := h.Point(handle, i, to); err != nil {
+		t.Errorf("Point(%d, %d, %d): %v", handle, i, to, err)
+	}
+}
+
+func wantSame(t *testing.T, h *trove.Heap, a, b int, want bool) {
+	t.Helper()
+	if got, err := h.Same(a, b); got != want || err != nil {
+		t.Errorf("Same(%d, %d) = %v, %v, want %v", a, b, got, err, want)
+	}
+}
+
+func wantNotSame(t *testing.T, h *trove.Heap, a, b int, reason error, handle int) {
+	t.Helper()
+	got, err := h.Same(a, b)
+	wantFault(t, "Same", err, reason, handle)
+	if got {
+		t.Errorf("Same(%d, %d): true beside an error", a, b)
+	}
+}
+
+func wantRef(t *testing.T, h *trove.Heap, kind, handle, want int) {
+	t.Helper()
+	got, err := h.Ref(kind, handle)
+	wantNumber(t, "Ref", got, err, want)
+}
+
+func mustFree(t *testing.T, h *trove.Heap, handles ...int) {
+	t.Helper()
+	for _, handle := range handles {
+		if err := h.Free(handle); err != nil {
+			t.Errorf("Free(%d): %v", handle, err)
+		}
+	}
+}
+
+func wantCollect(t *testing.T, h *trove.Heap, want int) {
+	t.Helper()
+	if got := h.Collect(); got != want {
+		t.Errorf("Collect() = %d, want %d", got, want)
+	}
+}
+
+// wantBadHandle: every call that asks for a handle refuses this one for this reason, whatever else is wrong, and changes nothing.
+func wantBadHandle(t *testing.T, h *trove.Heap, handle int, reason error) {
+	t.Helper()
+	before := h.Stats()
+	got, err := h.Get(handle, 0)
+	wantRefused(t, "Get", got, err, reason, handle)
+	wantFault(t, "Set", h.Set(handle, 0, 1), reason, handle)
+	got, err = h.Follow(handle, 1)
+	wantRefused(t, "Follow", got, err, reason, handle)
+	wantFault(t, "Point", h.Point(handle, 1, 0), reason, handle)
+	got, err = h.Ref(api.Global, handle)
+	wantRefused(t, "Ref", got, err, reason, handle)
+	if handle != 0 {
+		wantNotSame(t, h, handle, 0, reason, handle)
+		wantNotSame(t, h, 0, handle, reason, handle)
+		wantNotSame(t, h, handle, handle, reason, handle)
+	}
+	if reason != api.ErrCleared {
+		wantFault(t, "Free", h.Free(handle), reason, handle)
+	}
+	wantStats(t, h, before)
+}
+
 func wantStats(t *testing.T, h *trove.Heap, want [6]int) {
 	t.Helper()
 	if got := h.Stats(); got != want {

@@ -8,17 +8,6 @@ import (
 	"trove/api"
 )
 
-// The document's own example, as far as its calls are there.
-func TestExample(t *testing.T) {
-	h := newHeap(t, config(10, 3, 2, 2, pair))
-	wantMake(t, h, 0, 257)
-	mustSet(t, h, 257, 0, 7)
-	wantMake(t, h, 0, 261)
-	wantGet(t, h, 257, 0, 7)
-	wantGet(t, h, 261, 0, 0)
-	wantStats(t, h, [6]int{2, 6, 2, 0, 0, 1})
-}
-
 // P5: an object has its own class's fields, and takes their room and one.
 func TestMakeGivesTheFieldsOfTheClass(t *testing.T) {
 	full := slices.Repeat([]int{api.Number}, api.MaxFields)

@@ -2,6 +2,7 @@
 package trove
 
 import (
+	"errors"
 	"slices"
 
 	"trove/api"
@@ -72,19 +73,58 @@ func (h *Heap) Set(handle int, i int, v int) error {
 }
 
 // Follow gives a handle to what a reference of an object refers to (P6).
-func (h *Heap) Follow(handle int, i int) (int, error) { return 0, nil }
+func (h *Heap) Follow(handle int, i int) (int, error) {
+	o, err := h.object(handle)
+	if err != nil {
+		return 0, refusal(err)
+	}
+	to, err := o.Reference(i)
+	if err != nil || to == 0 {
+		return 0, refusal(err)
+	}
+	return h.take(api.Local, to)
+}
 
 // Point lets a reference of an object refer to another (P6).
-func (h *Heap) Point(handle int, i int, to int) error { return nil }
+func (h *Heap) Point(handle int, i int, to int) error {
+	o, err := h.object(handle)
+	if err != nil {
+		return refusal(err)
+	}
+	number, err := h.numberOrNothing(to)
+	if err != nil {
+		return refusal(err)
+	}
+	return refusal(o.SetReference(i, number))
+}
 
 // Same tells whether two handles are of one object (P7).
-func (h *Heap) Same(a int, b int) (bool, error) { return false, nil }
+func (h *Heap) Same(a int, b int) (bool, error) {
+	first, err := h.numberOrNothing(a)
+	if err != nil {
+		return false, refusal(err)
+	}
+	second, err := h.numberOrNothing(b)
+	if err != nil {
+		return false, refusal(err)
+	}
+	return first == second, nil
+}
 
 // Ref gives one handle more of a kind to an object (P7).
-func (h *Heap) Ref(kind int, handle int) (int, error) { return 0, nil }
+func (h *Heap) Ref(kind int, handle int) (int, error) {
+	if !within(kind, api.Local, api.Weak) {
+		return 0, refusal(api.ErrArg)
+	}
+	number, err := h.number(handle)
+	if err != nil {
+		return 0, refusal(err)
+	}
+	return h.take(kind, number)
+}
 
-// Free takes a handle back (P7).
-func (h *Heap) Free(handle int) error { return nil }
+// Free takes a handle back (P7). The tables alone are asked: a handle whose object has ended can be freed, too.
+func (h *Heap) Free(handle int) error { return refusal(h.handles.Free(handle)) }
 
 // Push begins a frame (P8).
 func (h *Heap) Push() error { return nil }
@@ -99,7 +139,9 @@ func (h *Heap) Pin(handle int) error { return nil }
 func (h *Heap) Unpin(handle int) error { return nil }
 
 // Collect lets go what nobody can come to; how many objects (P10).
-func (h *Heap) Collect() int { return 0 }
+func (h *Heap) Collect() int {
+	return h.objects.Collect(slices.Concat(h.handles.Held(api.Local), h.handles.Held(api.Global)))
+}
 
 // Ended tells the names of objects that have ended since it was asked last (P11).
 func (h *Heap) Ended() []int { return nil }
@@ -116,28 +158,58 @@ func (h *Heap) Stats() [6]int {
 	}
 }
 
-// add makes an object and a local handle to it. The slot is looked for first: without one the store must stay as it is.
+// add makes an object and a local handle to it. The slot is looked for first: without one nothing is made, and nothing is collected.
 func (h *Heap) add(kinds []int) (int, error) {
 	vacant, err := h.handles.Vacant(api.Local)
 	if err != nil {
 		return 0, refusal(err)
 	}
 	number, err := h.objects.Add(kinds)
+	if errors.Is(err, api.ErrRoom) {
+		h.Collect()
+		number, err = h.objects.Add(kinds)
+	}
 	if err != nil {
 		return 0, refusal(err)
 	}
 	return h.handles.Take(api.Local, vacant, number), nil
 }
 
-// object gives the object that a handle is of (P3). Only a weak handle can outlive its object.
-func (h *Heap) object(handle int) (*store.Object, error) {
+// take gives one handle more of a kind to an object.
+func (h *Heap) take(kind, number int) (int, error) {
+	vacant, err := h.handles.Vacant(kind)
+	if err != nil {
+		return 0, refusal(err)
+	}
+	return h.handles.Take(kind, vacant, number), nil
+}
+
+// number gives the number of the object that a handle is of (P3). Only a weak handle can outlive its object.
+func (h *Heap) number(handle int) (int, error) {
 	number, err := h.handles.Object(handle)
+	if err != nil {
+		return 0, err
+	}
+	if _, there := h.objects.Find(number); !there {
+		return 0, &handles.Bad{Handle: handle, Err: api.ErrCleared}
+	}
+	return number, nil
+}
+
+// numberOrNothing takes 0 for a good handle, too: that of nothing.
+func (h *Heap) numberOrNothing(handle int) (int, error) {
+	if handle == 0 {
+		return 0, nil
+	}
+	return h.number(handle)
+}
+
+// object gives the object that a handle is of (P3).
+func (h *Heap) object(handle int) (*store.Object, error) {
+	number, err := h.number(handle)
 	if err != nil {
 		return nil, err
 	}
-	o, there := h.objects.Find(number)
-	if !there {
-		return nil, &handles.Bad{Handle: handle, Err: api.ErrCleared}
-	}
+	o, _ := h.objects.Find(number)
 	return o, nil
 }
