@@ -1,7 +1,8 @@
-// Package store keeps the objects that are there, by their numbers, and reckons their room.
+// Package store keeps the objects that are there, by their numbers, reckons their room, and tells the names of those that have ended.
 package store
 
 import (
+	"maps"
 	"slices"
 
 	"trove/api"
@@ -13,27 +14,41 @@ type field struct {
 	value int
 }
 
-// Object is fields.
+// Object is fields. If it is named, its end is told by its name; every number from 0 may be one, so none can stand for no name.
 type Object struct {
 	fields []field
+	named  bool
+	name   int
 }
 
-// Store is the objects that are there. They are numbered from 1, so that 0 can stand for nothing.
+// Store is the objects that are there. They are numbered from 1, so that 0 can stand for nothing. The names of those that have ended wait in channels, one a collection, until they are asked for.
 type Store struct {
 	limit   int
 	made    int
 	objects map[int]*Object
+	ended   []<-chan int
 }
+
+// Blank makes an object with fields of these kinds: numbers are 0, references are to nothing.
+func Blank(kinds []int) *Object {
+	o := &Object{fields: make([]field, len(kinds))}
+	for i, kind := range kinds {
+		o.fields[i].kind = kind
+	}
+	return o
+}
+
+// Named makes an object without fields whose end is told by this name.
+func Named(name int) *Object { return &Object{named: true, name: name} }
 
 // New makes a store without objects that has so much room.
 func New(limit int) *Store {
 	return &Store{limit: limit, objects: map[int]*Object{}}
 }
 
-// Add makes an object with fields of these kinds, if there is room for it, and gives its number.
-func (s *Store) Add(kinds []int) (int, error) {
-	o := blank(kinds)
-	if o.room() > s.left() {
+// Add puts an object in, if there is room for it, and gives its number.
+func (s *Store) Add(o *Object) (int, error) {
+	if s.granted(o.room()) < o.room() {
 		return 0, api.ErrRoom
 	}
 	s.made++
@@ -59,18 +74,28 @@ func (s *Store) Room() int {
 	return sum
 }
 
-func (s *Store) left() int { return max(s.limit-s.Room(), 0) }
+// granted is as much of the room that is wanted as is left.
+func (s *Store) granted(wanted int) int { return min(wanted, max(s.limit-s.Room(), 0)) }
 
-// Collect ends all objects to which nobody comes from these, and tells how many.
+// Collect ends all objects to which nobody comes from these, and tells how many. Without names among them nothing is kept for Ended, so that it does not grow with collections that have nothing to tell.
 func (s *Store) Collect(from []int) int {
-	before := len(s.objects)
-	come := s.reached(from)
-	for number := range s.objects {
-		if _, ok := come[number]; !ok {
-			delete(s.objects, number)
-		}
+	gone := s.missed(from)
+	if names := s.names(gone); len(names) > 0 {
+		s.ended = append(s.ended, sent(names))
 	}
-	return before - len(s.objects)
+	for _, number := range gone {
+		delete(s.objects, number)
+	}
+	return len(gone)
+}
+
+// missed finds the numbers of all objects to which nobody comes from these. They are sorted, since names are told by them.
+func (s *Store) missed(from []int) []int {
+	come := s.reached(from)
+	return slices.DeleteFunc(slices.Sorted(maps.Keys(s.objects)), func(number int) bool {
+		_, ok := come[number]
+		return ok
+	})
 }
 
 // reached finds all objects to which somebody comes from these. It goes by a list and not by calling itself, so that rings end and long chains do no harm.
@@ -137,15 +162,6 @@ func (o *Object) references() []int {
 		}
 	}
 	return to
-}
-
-// blank makes an object as it is at first: numbers are 0, references are to nothing.
-func blank(kinds []int) *Object {
-	o := &Object{fields: make([]field, len(kinds))}
-	for i, kind := range kinds {
-		o.fields[i].kind = kind
-	}
-	return o
 }
 
 // room is one more than the fields, so that an object without fields takes some, too.

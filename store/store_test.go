@@ -11,14 +11,14 @@ import (
 func TestObjectsAreNumberedInTheOrderOfTheirMaking(t *testing.T) {
 	s := New(6)
 	for want, kinds := range [][]int{{api.Number}, {api.Number, api.Reference}} {
-		if got, err := s.Add(kinds); got != want+1 || err != nil {
+		if got, err := s.Add(Blank(kinds)); got != want+1 || err != nil {
 			t.Errorf("Add = %d, %v, want %d", got, err, want+1)
 		}
 	}
-	if got, err := s.Add([]int{api.Number}); got != 0 || err != api.ErrRoom {
+	if got, err := s.Add(Blank([]int{api.Number})); got != 0 || err != api.ErrRoom {
 		t.Errorf("Add without room = %d, %v", got, err)
 	}
-	if got, err := s.Add(nil); got != 3 || err != nil {
+	if got, err := s.Add(Blank(nil)); got != 3 || err != nil {
 		t.Errorf("Add = %d, %v, want 3: a refused object has no number", got, err)
 	}
 	if s.Count() != 3 || s.Room() != 6 {
@@ -28,7 +28,7 @@ func TestObjectsAreNumberedInTheOrderOfTheirMaking(t *testing.T) {
 
 func TestFindKnowsWhatIsThere(t *testing.T) {
 	s := New(6)
-	number, _ := s.Add([]int{api.Number})
+	number, _ := s.Add(Blank([]int{api.Number}))
 	if o, ok := s.Find(number); !ok || o == nil {
 		t.Errorf("Find(%d) = %v, %v", number, o, ok)
 	}
@@ -42,7 +42,7 @@ func TestFindKnowsWhatIsThere(t *testing.T) {
 func TestAnObjectKeepsNothingOfItsKinds(t *testing.T) {
 	s := New(6)
 	kinds := []int{api.Number, api.Reference}
-	number, _ := s.Add(kinds)
+	number, _ := s.Add(Blank(kinds))
 	kinds[0], kinds[1] = api.Reference, api.Number
 	o, _ := s.Find(number)
 	if err := o.SetNumber(0, 4); err != nil {
@@ -64,7 +64,7 @@ func chain(t *testing.T, n int) *Store {
 	t.Helper()
 	s := New(2 * n)
 	for before := range n {
-		number, err := s.Add([]int{api.Reference})
+		number, err := s.Add(Blank([]int{api.Reference}))
 		if err != nil || number != before+1 {
 			t.Fatalf("Add = %d, %v", number, err)
 		}
@@ -132,8 +132,8 @@ func TestCollectGoesRoundARingOnce(t *testing.T) {
 
 func TestCollectTakesNumbersForNumbers(t *testing.T) {
 	s := New(10)
-	a, _ := s.Add([]int{api.Number})
-	b, _ := s.Add([]int{api.Number})
+	a, _ := s.Add(Blank([]int{api.Number}))
+	b, _ := s.Add(Blank([]int{api.Number}))
 	o, _ := s.Find(b)
 	if err := o.SetNumber(0, a); err != nil {
 		t.Error(err)
@@ -157,7 +157,70 @@ func TestCollectLeavesTheListThatItIsGiven(t *testing.T) {
 func TestNumbersAreNotGivenAgain(t *testing.T) {
 	s := chain(t, 3)
 	s.Collect(nil)
-	if got, err := s.Add(nil); got != 4 || err != nil {
+	if got, err := s.Add(Blank(nil)); got != 4 || err != nil {
 		t.Errorf("Add = %d, %v, want 4", got, err)
+	}
+}
+
+func wantEnded(t *testing.T, s *Store, want ...int) {
+	t.Helper()
+	if got := s.Ended(); !slices.Equal(got, want) {
+		t.Errorf("Ended() = %v, want %v", got, want)
+	}
+}
+
+// named: a store of objects with these names; the numbers are from 1.
+func named(t *testing.T, names ...int) *Store {
+	t.Helper()
+	s := New(len(names))
+	for i, name := range names {
+		if got, err := s.Add(Named(name)); got != i+1 || err != nil {
+			t.Fatalf("Add = %d, %v, want %d", got, err, i+1)
+		}
+	}
+	return s
+}
+
+func TestNamesAreToldCollectionByCollection(t *testing.T) {
+	s := named(t, 9, 8, 7, 0, 0)
+	if s.Room() != 5 {
+		t.Errorf("room %d, want 5: a named object has no fields", s.Room())
+	}
+	wantEnded(t, s)
+	s.Collect([]int{1, 4})
+	s.Collect([]int{1, 4})
+	s.Collect([]int{4})
+	wantEnded(t, s, 8, 7, 0, 9)
+	wantEnded(t, s)
+	s.Collect(nil)
+	wantEnded(t, s, 0)
+}
+
+// What waits is no more than the names that are to be told, in channels that are just as big and are closed.
+func TestNoMoreIsKeptThanNames(t *testing.T) {
+	s := named(t, 3, 2, 1)
+	s.Add(Blank(nil))
+	for range 100 {
+		s.Collect([]int{1, 2, 3})
+	}
+	if len(s.ended) != 0 {
+		t.Errorf("%d channels, want none: no name has ended", len(s.ended))
+	}
+	s.Add(Blank(nil))
+	s.Collect([]int{2})
+	if len(s.ended) != 1 || cap(s.ended[0]) != 2 || len(s.ended[0]) != 2 {
+		t.Fatalf("channels %v, want one of two names", s.ended)
+	}
+	for _, want := range []int{3, 1} {
+		if name, ok := <-s.ended[0]; name != want || !ok {
+			t.Errorf("%d, %v in the channel, want %d", name, ok, want)
+		}
+	}
+	if _, ok := <-s.ended[0]; ok {
+		t.Error("the channel is not closed")
+	}
+	s.Ended()
+	if len(s.ended) != 0 {
+		t.Errorf("%d channels behind Ended, want none", len(s.ended))
 	}
 }

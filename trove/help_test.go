@@ -2,6 +2,7 @@ package trove_test
 
 import (
 	"errors"
+	"slices"
 	"testing"
 
 	"trove/api"
@@ -159,5 +160,25 @@ func wantStats(t *testing.T, h *trove.Heap, want [6]int) {
 	t.Helper()
 	if got := h.Stats(); got != want {
 		t.Errorf("Stats() = %v, want %v", got, want)
+	}
+}
+
+func wantExtern(t *testing.T, h *trove.Heap, name, want int) {
+	t.Helper()
+	got, err := h.Extern(name)
+	wantNumber(t, "Extern", got, err, want)
+}
+
+// wantNoExtern: an Extern was refused for this reason.
+func wantNoExtern(t *testing.T, h *trove.Heap, name int, reason error) {
+	t.Helper()
+	got, err := h.Extern(name)
+	wantRefused(t, "Extern", got, err, reason, 0)
+}
+
+func wantEnded(t *testing.T, h *trove.Heap, want ...int) {
+	t.Helper()
+	if got := h.Ended(); !slices.Equal(got, want) {
+		t.Errorf("Ended() = %v, want %v", got, want)
 	}
 }

@@ -1,6 +1,7 @@
 package trove_test
 
 import (
+	"fmt"
 	"math"
 	"math/rand/v2"
 	"slices"
@@ -15,6 +16,7 @@ type thing struct {
 	kinds   []int
 	numbers []int
 	to      []*thing
+	names   []int // one, if it was made by Extern
 	ended   bool
 }
 
@@ -29,12 +31,14 @@ type model struct {
 	config api.Config
 	tables map[int][]place
 	things []*thing
+	names  []int
 }
 
-// told is what a call tells: a number or a truth, or why not and of which handle.
+// told is what a call tells: a number, a truth or a list (written out), or why not and of which handle.
 type told struct {
 	number int
 	truth  bool
+	list   string
 	reason error
 	handle int
 }
@@ -112,15 +116,28 @@ func (m *model) collect() told {
 			}
 		}
 	}
-	before := len(m.things)
-	m.things = slices.DeleteFunc(m.things, func(o *thing) bool {
-		o.ended = !come[o]
-		return o.ended
-	})
-	return told{number: before - len(m.things)}
+	left := []*thing{}
+	n := 0
+	for _, o := range m.things {
+		if come[o] {
+			left = append(left, o)
+			continue
+		}
+		n++
+		o.ended = true
+		m.names = append(m.names, o.names...)
+	}
+	m.things = left
+	return told{number: n}
 }
 
-func (m *model) add(kinds []int) told {
+func (m *model) ended() told {
+	list := fmt.Sprint(m.names)
+	m.names = nil
+	return told{list: list}
+}
+
+func (m *model) add(kinds []int, names ...int) told {
 	if m.vacant(api.Local) < 0 {
 		return told{reason: api.ErrTable}
 	}
@@ -130,7 +147,7 @@ func (m *model) add(kinds []int) told {
 	if m.room()+len(kinds)+1 > m.config.Room {
 		return told{reason: api.ErrRoom}
 	}
-	o := &thing{kinds: kinds, numbers: make([]int, len(kinds)), to: make([]*thing, len(kinds))}
+	o := &thing{kinds: kinds, names: names, numbers: make([]int, len(kinds)), to: make([]*thing, len(kinds))}
 	m.things = append(m.things, o)
 	return m.take(api.Local, o)
 }
@@ -147,6 +164,13 @@ func (m *model) array(kind, n int) told {
 		return told{reason: api.ErrArg}
 	}
 	return m.add(slices.Repeat([]int{kind}, n))
+}
+
+func (m *model) extern(name int) told {
+	if name < 0 || name > api.MaxValue {
+		return told{reason: api.ErrArg}
+	}
+	return m.add(nil, name)
 }
 
 func (o *thing) has(i, kind int) bool { return i >= 0 && i < len(o.kinds) && o.kinds[i] == kind }
@@ -272,7 +296,7 @@ func tells(t *testing.T, number int, truth bool, err error) told {
 	if !ok {
 		t.Fatalf("error %v (%T), want a fault", err, err)
 	}
-	return told{number, truth, fault.Err, fault.Handle}
+	return told{number: number, truth: truth, reason: fault.Err, handle: fault.Handle}
 }
 
 // walk is a row of calls, made of a heap and of its model alike.
@@ -322,7 +346,7 @@ func (w *walk) value() int {
 func (w *walk) call() (name string, got, want told) {
 	h, m := w.heap, w.model
 	handle, i := w.handle(), w.number(3)
-	switch k := w.random.IntN(22); {
+	switch k := w.random.IntN(26); {
 	case k < 4:
 		class := w.number(3)
 		number, err := h.Make(class)
@@ -354,7 +378,20 @@ func (w *walk) call() (name string, got, want told) {
 	case k < 21:
 		return "Free", tells(w.T, 0, false, h.Free(handle)), m.free(handle)
 	}
-	return "Collect", told{number: h.Collect()}, m.collect()
+	return w.callOfNames()
+}
+
+func (w *walk) callOfNames() (name string, got, want told) {
+	h, m := w.heap, w.model
+	switch w.random.IntN(5) {
+	case 0:
+		return "Collect", told{number: h.Collect()}, m.collect()
+	case 1:
+		return "Ended", told{list: fmt.Sprint(h.Ended())}, m.ended()
+	}
+	v := w.value()
+	number, err := h.Extern(v)
+	return "Extern", tells(w.T, number, false, err), m.extern(v)
 }
 
 // step makes a call and holds all that can be seen against the model.
@@ -363,7 +400,7 @@ func (w *walk) step(n int) {
 	if got != want {
 		w.Fatalf("call %d, %s: %+v, want %+v", n, name, got, want)
 	}
-	if got.reason == nil && got.number != 0 && slices.Contains([]string{"Make", "Array", "Follow", "Ref"}, name) {
+	if got.reason == nil && got.number != 0 && slices.Contains([]string{"Make", "Array", "Extern", "Follow", "Ref"}, name) {
 		if slices.Contains(w.given, got.number) {
 			w.Fatalf("call %d, %s: P12: handle %d is given out again", n, name, got.number)
 		}

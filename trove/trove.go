@@ -36,7 +36,7 @@ func (h *Heap) Make(class int) (int, error) {
 	if !within(class, 0, len(h.classes)-1) {
 		return 0, refusal(api.ErrArg)
 	}
-	return h.add(h.classes[class])
+	return h.add(store.Blank(h.classes[class]))
 }
 
 // Array makes an array of so many elements of a kind (P5).
@@ -44,11 +44,16 @@ func (h *Heap) Array(kind int, n int) (int, error) {
 	if badKind(kind) || !within(n, 0, api.MaxElements) {
 		return 0, refusal(api.ErrArg)
 	}
-	return h.add(slices.Repeat([]int{kind}, n))
+	return h.add(store.Blank(slices.Repeat([]int{kind}, n)))
 }
 
 // Extern makes an object whose end is told (P5).
-func (h *Heap) Extern(name int) (int, error) { return 0, nil }
+func (h *Heap) Extern(name int) (int, error) {
+	if !within(name, 0, api.MaxValue) {
+		return 0, refusal(api.ErrArg)
+	}
+	return h.add(store.Named(name))
+}
 
 // Get reads a number of an object (P6).
 func (h *Heap) Get(handle int, i int) (int, error) {
@@ -144,7 +149,7 @@ func (h *Heap) Collect() int {
 }
 
 // Ended tells the names of objects that have ended since it was asked last (P11).
-func (h *Heap) Ended() []int { return nil }
+func (h *Heap) Ended() []int { return h.objects.Ended() }
 
 // Stats tells how many objects there are, how much room they take, how many slots of each kind are taken, and how many frames there are (P11).
 func (h *Heap) Stats() [6]int {
@@ -158,16 +163,16 @@ func (h *Heap) Stats() [6]int {
 	}
 }
 
-// add makes an object and a local handle to it. The slot is looked for first: without one nothing is made, and nothing is collected.
-func (h *Heap) add(kinds []int) (int, error) {
+// add puts an object in and gives a local handle to it. The slot is looked for first: without one nothing is made, and nothing is collected.
+func (h *Heap) add(o *store.Object) (int, error) {
 	vacant, err := h.handles.Vacant(api.Local)
 	if err != nil {
 		return 0, refusal(err)
 	}
-	number, err := h.objects.Add(kinds)
+	number, err := h.objects.Add(o)
 	if errors.Is(err, api.ErrRoom) {
 		h.Collect()
-		number, err = h.objects.Add(kinds)
+		number, err = h.objects.Add(o)
 	}
 	if err != nil {
 		return 0, refusal(err)
