@@ -14,9 +14,10 @@ type field struct {
 	value int
 }
 
-// Object is fields. If it is named, its end is told by its name; every number from 0 may be one, so none can stand for no name.
+// Object is fields, and pins, which hold it fast. If it is named, its end is told by its name; every number from 0 may be one, so none can stand for no name.
 type Object struct {
 	fields []field
+	pins   int
 	named  bool
 	name   int
 }
@@ -77,7 +78,7 @@ func (s *Store) Room() int {
 // granted is as much of the room that is wanted as is left.
 func (s *Store) granted(wanted int) int { return min(wanted, max(s.limit-s.Room(), 0)) }
 
-// Collect ends all objects to which nobody comes from these, and tells how many. Without names among them nothing is kept for Ended, so that it does not grow with collections that have nothing to tell.
+// Collect ends all objects to which nobody comes from these, nor from what has pins, and tells how many. Without names among them nothing is kept for Ended, so that it does not grow with collections that have nothing to tell.
 func (s *Store) Collect(from []int) int {
 	gone := s.missed(from)
 	if names := s.names(gone); len(names) > 0 {
@@ -89,9 +90,9 @@ func (s *Store) Collect(from []int) int {
 	return len(gone)
 }
 
-// missed finds the numbers of all objects to which nobody comes from these. They are sorted, since names are told by them.
+// missed finds the numbers of all objects to which nobody comes from these, nor from what has pins. They are sorted, since names are told by them.
 func (s *Store) missed(from []int) []int {
-	come := s.reached(from)
+	come := s.reached(slices.Concat(from, s.pinned()))
 	return slices.DeleteFunc(slices.Sorted(maps.Keys(s.objects)), func(number int) bool {
 		_, ok := come[number]
 		return ok

@@ -146,6 +146,7 @@ func TestCollectTakesNumbersForNumbers(t *testing.T) {
 
 func TestCollectLeavesTheListThatItIsGiven(t *testing.T) {
 	s := chain(t, 4)
+	wantPin(t, s, 2, nil)
 	behind := []int{4, 77, 78, 79}
 	s.Collect(behind[:1])
 	if !slices.Equal(behind, []int{4, 77, 78, 79}) {

@@ -153,7 +153,61 @@ func wantBadHandle(t *testing.T, h *trove.Heap, handle int, reason error) {
 	if reason != api.ErrCleared {
 		wantFault(t, "Free", h.Free(handle), reason, handle)
 	}
+	wantFault(t, "Pin", h.Pin(handle), reason, handle)
+	wantFault(t, "Unpin", h.Unpin(handle), reason, handle)
+	wantBadToPop(t, h, handle, reason)
 	wantStats(t, h, before)
+}
+
+// wantBadToPop: Pop refuses this handle for this reason, unless it is 0. There is a frame more meanwhile, so that one can end, if there can be.
+func wantBadToPop(t *testing.T, h *trove.Heap, handle int, reason error) {
+	t.Helper()
+	if handle == 0 {
+		return
+	}
+	pushed := h.Push() == nil
+	wantNoPop(t, h, handle, reason, handle)
+	if pushed {
+		wantPop(t, h, 0, 0)
+	}
+}
+
+func mustPush(t *testing.T, h *trove.Heap) {
+	t.Helper()
+	if err := h.Push(); err != nil {
+		t.Errorf("Push: %v", err)
+	}
+}
+
+func wantPop(t *testing.T, h *trove.Heap, handle, want int) {
+	t.Helper()
+	got, err := h.Pop(handle)
+	wantNumber(t, "Pop", got, err, want)
+}
+
+// wantNoPop: a Pop was refused for this reason.
+func wantNoPop(t *testing.T, h *trove.Heap, handle int, reason error, of int) {
+	t.Helper()
+	got, err := h.Pop(handle)
+	wantRefused(t, "Pop", got, err, reason, of)
+}
+
+func mustPin(t *testing.T, h *trove.Heap, handles ...int) {
+	t.Helper()
+	for _, handle := range handles {
+		if err := h.Pin(handle); err != nil {
+			t.Errorf("Pin(%d): %v", handle, err)
+		}
+	}
+}
+
+func mustUnpin(t *testing.T, h *trove.Heap, handles ...int) {
+	t.Helper()
+	for _, handle := range handles {
+		if err := h.Unpin(handle); err != nil {
+			t.Errorf("Unpin(%d): %v", handle, err)
+		}
+	}
 }
 
 func wantStats(t *testing.T, h *trove.Heap, want [6]int) {

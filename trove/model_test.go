@@ -17,13 +17,15 @@ type thing struct {
 	numbers []int
 	to      []*thing
 	names   []int // one, if it was made by Extern
+	pins    int
 	ended   bool
 }
 
-// place is a slot: free if it is of nothing.
+// place is a slot: free if it is of nothing; else its handle belongs to this frame.
 type place struct {
 	of         *thing
 	generation int
+	frame      int
 }
 
 // model answers the calls by the document's words, in the plainest way, to be held against the program.
@@ -32,6 +34,7 @@ type model struct {
 	tables map[int][]place
 	things []*thing
 	names  []int
+	frames int
 }
 
 // told is what a call tells: a number, a truth or a list (written out), or why not and of which handle.
@@ -44,7 +47,7 @@ type told struct {
 }
 
 func newModel(c api.Config) *model {
-	return &model{config: c, tables: map[int][]place{
+	return &model{config: c, frames: 1, tables: map[int][]place{
 		api.Local: make([]place, c.Locals), api.Global: make([]place, c.Globals), api.Weak: make([]place, c.Weaks),
 	}}
 }
@@ -84,7 +87,7 @@ func (m *model) take(kind int, of *thing) told {
 		return told{reason: api.ErrTable}
 	}
 	generation := m.tables[kind][i].generation + 1
-	m.tables[kind][i] = place{of, generation}
+	m.tables[kind][i] = place{of, generation, m.frames}
 	return told{number: kind + 4*i + 256*generation}
 }
 
@@ -104,6 +107,11 @@ func (m *model) collect() told {
 			if p.of != nil {
 				come[p.of] = true
 			}
+		}
+	}
+	for _, o := range m.things {
+		if o.pins > 0 {
+			come[o] = true
 		}
 	}
 	for n := -1; n != len(come); {
@@ -261,6 +269,53 @@ func (m *model) free(handle int) told {
 	return told{}
 }
 
+func (m *model) push() told {
+	if m.frames == api.MaxFrames {
+		return told{reason: api.ErrFrame}
+	}
+	m.frames++
+	return told{}
+}
+
+func (m *model) pop(handle int) told {
+	if m.frames == 1 {
+		return told{reason: api.ErrFrame}
+	}
+	o, _, no := m.find(handle)
+	if handle != 0 && no.reason != nil {
+		return no
+	}
+	before := slices.Clone(m.tables[api.Local])
+	for i, p := range before {
+		if p.frame == m.frames {
+			m.tables[api.Local][i].of = nil
+		}
+	}
+	m.frames--
+	if handle == 0 {
+		return told{}
+	}
+	out := m.take(api.Local, o)
+	if out.reason != nil {
+		m.tables[api.Local] = before
+		m.frames++
+	}
+	return out
+}
+
+// pin gives an object so many pins more: one, or one less.
+func (m *model) pin(handle, more int) told {
+	o, _, no := m.find(handle)
+	switch {
+	case no.reason != nil:
+		return no
+	case o.pins+more < 0 || o.pins+more > api.MaxPins:
+		return told{reason: api.ErrPin}
+	}
+	o.pins += more
+	return told{}
+}
+
 // taken: the handles of all slots that are not free.
 func (m *model) taken() []int {
 	all := []int{}
@@ -275,7 +330,7 @@ func (m *model) taken() []int {
 }
 
 func (m *model) stats() [6]int {
-	s := [6]int{len(m.things), m.room(), 0, 0, 0, 1}
+	s := [6]int{len(m.things), m.room(), 0, 0, 0, m.frames}
 	for kind, places := range m.tables {
 		for _, p := range places {
 			if p.of != nil {
@@ -346,7 +401,7 @@ func (w *walk) value() int {
 func (w *walk) call() (name string, got, want told) {
 	h, m := w.heap, w.model
 	handle, i := w.handle(), w.number(3)
-	switch k := w.random.IntN(26); {
+	switch k := w.random.IntN(32); {
 	case k < 4:
 		class := w.number(3)
 		number, err := h.Make(class)
@@ -377,8 +432,10 @@ func (w *walk) call() (name string, got, want told) {
 		return "Ref", tells(w.T, number, false, err), m.ref(kind, handle)
 	case k < 21:
 		return "Free", tells(w.T, 0, false, h.Free(handle)), m.free(handle)
+	case k < 26:
+		return w.callOfNames()
 	}
-	return w.callOfNames()
+	return w.callOfFrames(handle)
 }
 
 func (w *walk) callOfNames() (name string, got, want told) {
@@ -394,13 +451,27 @@ func (w *walk) callOfNames() (name string, got, want told) {
 	return "Extern", tells(w.T, number, false, err), m.extern(v)
 }
 
+func (w *walk) callOfFrames(handle int) (name string, got, want told) {
+	h, m := w.heap, w.model
+	switch w.random.IntN(6) {
+	case 0, 1:
+		return "Push", tells(w.T, 0, false, h.Push()), m.push()
+	case 2:
+		return "Pin", tells(w.T, 0, false, h.Pin(handle)), m.pin(handle, 1)
+	case 3:
+		return "Unpin", tells(w.T, 0, false, h.Unpin(handle)), m.pin(handle, -1)
+	}
+	number, err := h.Pop(handle)
+	return "Pop", tells(w.T, number, false, err), m.pop(handle)
+}
+
 // step makes a call and holds all that can be seen against the model.
 func (w *walk) step(n int) {
 	name, got, want := w.call()
 	if got != want {
 		w.Fatalf("call %d, %s: %+v, want %+v", n, name, got, want)
 	}
-	if got.reason == nil && got.number != 0 && slices.Contains([]string{"Make", "Array", "Extern", "Follow", "Ref"}, name) {
+	if got.reason == nil && got.number != 0 && slices.Contains([]string{"Make", "Array", "Extern", "Follow", "Ref", "Pop"}, name) {
 		if slices.Contains(w.given, got.number) {
 			w.Fatalf("call %d, %s: P12: handle %d is given out again", n, name, got.number)
 		}
@@ -419,12 +490,12 @@ func (w *walk) step(n int) {
 	}
 }
 
-// P1, P3, P5 to P7, P10 to P13: long rows of calls tell what the document says, whatever came before.
+// P1, P3 to P13: long rows of calls tell what the document says, whatever came before.
 func TestRowsOfCalls(t *testing.T) {
 	classes := [][]int{{api.Number, api.Reference}, {api.Reference, api.Reference, api.Number}, nil}
-	for seed := range uint64(60) {
+	for seed := range uint64(120) {
 		random := rand.New(rand.NewPCG(seed, 5))
-		c := config(1+random.IntN(30), 1+random.IntN(5), 1+random.IntN(3), 1+random.IntN(3), classes...)
+		c := config(1+random.IntN(60), 1+random.IntN(7), 1+random.IntN(3), 1+random.IntN(3), classes...)
 		w := &walk{t, random, newHeap(t, c), newModel(c), nil}
 		for n := range 400 {
 			w.step(n)

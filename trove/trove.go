@@ -15,7 +15,6 @@ type Heap struct {
 	classes [][]int
 	objects *store.Store
 	handles *handles.Tables
-	frames  int
 }
 
 // New makes a heap (P2).
@@ -27,7 +26,6 @@ func New(c api.Config) (*Heap, error) {
 		classes: copied(c.Classes),
 		objects: store.New(c.Room),
 		handles: handles.New(c.Locals, c.Globals, c.Weaks),
-		frames:  1,
 	}, nil
 }
 
@@ -132,16 +130,44 @@ func (h *Heap) Ref(kind int, handle int) (int, error) {
 func (h *Heap) Free(handle int) error { return refusal(h.handles.Free(handle)) }
 
 // Push begins a frame (P8).
-func (h *Heap) Push() error { return nil }
+func (h *Heap) Push() error {
+	if h.handles.Frames() == api.MaxFrames {
+		return refusal(api.ErrFrame)
+	}
+	h.handles.Push()
+	return nil
+}
 
 // Pop ends a frame; one object comes out of it (P8).
-func (h *Heap) Pop(handle int) (int, error) { return 0, nil }
+func (h *Heap) Pop(handle int) (int, error) {
+	if h.handles.Frames() == 1 {
+		return 0, refusal(api.ErrFrame)
+	}
+	number, err := h.numberOrNothing(handle)
+	if err != nil {
+		return 0, refusal(err)
+	}
+	out, err := h.handles.Pop(number)
+	return out, refusal(err)
+}
 
 // Pin holds an object fast (P9).
-func (h *Heap) Pin(handle int) error { return nil }
+func (h *Heap) Pin(handle int) error {
+	o, err := h.object(handle)
+	if err != nil {
+		return refusal(err)
+	}
+	return refusal(o.Pin())
+}
 
 // Unpin lets it go (P9).
-func (h *Heap) Unpin(handle int) error { return nil }
+func (h *Heap) Unpin(handle int) error {
+	o, err := h.object(handle)
+	if err != nil {
+		return refusal(err)
+	}
+	return refusal(o.Unpin())
+}
 
 // Collect lets go what nobody can come to; how many objects (P10).
 func (h *Heap) Collect() int {
@@ -159,7 +185,7 @@ func (h *Heap) Stats() [6]int {
 		h.handles.Taken(api.Local),
 		h.handles.Taken(api.Global),
 		h.handles.Taken(api.Weak),
-		h.frames,
+		h.handles.Frames(),
 	}
 }
 
